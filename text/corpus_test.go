@@ -96,7 +96,7 @@ func shown(x thing) string {
 	return x.bytes
 }
 
-// corpus is all texts of up to three of the pieces that matter.
+// corpus is all texts of one byte, and of up to three of the pieces that matter.
 func corpus() []string {
 	pieces := []string{
 		"a", "x", "7", "f", " ", "\n", "\t", "\x00", "\x1f", "\x7f", "\\", "\"",
@@ -113,6 +113,9 @@ func corpus() []string {
 			}
 		}
 		from = end
+	}
+	for n := range 256 {
+		all = append(all, string([]byte{byte(n)}))
 	}
 	slices.Sort(all)
 	return slices.Compact(all)

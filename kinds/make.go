@@ -129,21 +129,10 @@ func answer(text string, harsh bool) func() string {
 
 // makeAbout is the error of a spec whose kind has one part at most.
 func makeAbout(s api.Spec, parts []error) (error, api.Errno) {
-	switch s.Kind {
-	case api.KindPlaced:
-		plain, ok := partOf[*Plain](parts)
-		if !ok {
-			return nil, api.ErrPart
-		}
-		return Placed{plain, s.Number}, api.OK
-	case api.KindFull:
-		wrap, ok := partOf[*Wrap](parts)
-		if !ok {
-			return nil, api.ErrPart
-		}
-		return Full{wrap, Coded{s.Number, s.Text}}, api.OK
+	var part error
+	if len(parts) > 0 {
+		part = parts[0]
 	}
-	part, _ := partOf[error](parts)
 	switch s.Kind {
 	case api.KindHold:
 		return Hold{s.Text, part}, api.OK
@@ -153,18 +142,35 @@ func makeAbout(s api.Spec, parts []error) (error, api.Errno) {
 		return Over{s.Text, part}, api.OK
 	case api.KindTimed:
 		return Timed{part, s.Flag}, api.OK
+	case api.KindPlaced:
+		return makePlaced(s, part)
+	case api.KindFull:
+		return makeFull(s, part)
 	}
 	return Veil{part}, api.OK
 }
 
-// partOf is the one part that there may be, as a T; a nil one, where there is
-// none or it is no error; false, where it is an error, but no T.
-func partOf[T error](parts []error) (part T, ok bool) {
-	if len(parts) == 0 || parts[0] == nil {
-		return part, true
+// makePlaced is the Placed of a spec. What is no error embeds as a nil Plain.
+func makePlaced(s api.Spec, part error) (error, api.Errno) {
+	if part == nil {
+		return Placed{nil, s.Number}, api.OK
 	}
-	part, ok = parts[0].(T)
-	return part, ok
+	if plain, ok := part.(*Plain); ok {
+		return Placed{plain, s.Number}, api.OK
+	}
+	return nil, api.ErrPart
+}
+
+// makeFull is the Full of a spec. What is no error embeds as a nil Wrap.
+func makeFull(s api.Spec, part error) (error, api.Errno) {
+	coded := Coded{s.Number, s.Text}
+	if part == nil {
+		return Full{nil, coded}, api.OK
+	}
+	if wrap, ok := part.(*Wrap); ok {
+		return Full{wrap, coded}, api.OK
+	}
+	return nil, api.ErrPart
 }
 
 // makeOfMany is the error of a spec whose kind has many parts.
